@@ -8,6 +8,7 @@ import (
 	"testing"
 
 	"cavil/api"
+	"cavil/sample"
 )
 
 // P9.3: a dot alone, an exponent alone, and both, with and without a sign in the exponent.
@@ -69,7 +70,7 @@ func TestFloatScale(t *testing.T) {
 		{"1.5e-153", "1.5e-154"}, {"0.0000000001e164", "0.0000000001e165"}, {"1e00154", "1e00155"}, {"1_0e1_5_3", "1_0e1_5_4"}, {zeros(300) + "1e154", zeros(300) + "1e155"},
 	} {
 		if _, e := Float(c.fits); e != nil {
-			t.Errorf("Float(%s) has an error: %v", short(c.fits), e)
+			t.Errorf("Float(%s) has an error: %v", sample.Short(c.fits), e)
 		}
 		expectFloatByWords(t, c.fits)
 		expectFloat(t, c.over, api.Rat{}, api.ErrOver)

@@ -10,6 +10,7 @@ import (
 	"testing"
 
 	"cavil/api"
+	"cavil/sample"
 )
 
 // form is the number with a value of at most 512 bits that is not negative.
@@ -48,14 +49,6 @@ func rat(text string) api.Rat {
 
 // whole is the ratio n / 1.
 func whole(n api.Int) api.Rat { return api.Rat{N: n, D: api.Int{W: [8]uint64{1}}} }
-
-// short is a text as a test tells it.
-func short(s string) string {
-	if len(s) > 60 {
-		return strconv.Quote(s[:30]) + ".." + strconv.Quote(s[len(s)-20:])
-	}
-	return strconv.Quote(s)
-}
 
 // each calls f with all texts of at most n bytes of an alphabet.
 func each(alphabet string, n int, f func(s string)) {
@@ -184,14 +177,14 @@ func valueByWords(kind int, s string) (api.Rat, error) {
 func expectInt(t *testing.T, s string, want api.Int, wrong error) {
 	t.Helper()
 	if n, e := Int(s); n != want || e != wrong {
-		t.Errorf("Int(%s) = %v, %v; want %v, %v", short(s), n, e, want, wrong)
+		t.Errorf("Int(%s) = %v, %v; want %v, %v", sample.Short(s), n, e, want, wrong)
 	}
 	ratio := api.Rat{}
 	if wrong == nil {
 		ratio = whole(want)
 	}
 	if r, e := Value(2, s); r != ratio || e != wrong {
-		t.Errorf("Value(2, %s) = %v, %v; want %v, %v", short(s), r, e, ratio, wrong)
+		t.Errorf("Value(2, %s) = %v, %v; want %v, %v", sample.Short(s), r, e, ratio, wrong)
 	}
 }
 
@@ -206,10 +199,10 @@ func expectIntByWords(t *testing.T, s string) {
 func expectFloat(t *testing.T, s string, want api.Rat, wrong error) {
 	t.Helper()
 	if r, e := Float(s); r != want || e != wrong {
-		t.Errorf("Float(%s) = %v, %v; want %v, %v", short(s), r, e, want, wrong)
+		t.Errorf("Float(%s) = %v, %v; want %v, %v", sample.Short(s), r, e, want, wrong)
 	}
 	if r, e := Value(3, s); r != want || e != wrong {
-		t.Errorf("Value(3, %s) = %v, %v; want %v, %v", short(s), r, e, want, wrong)
+		t.Errorf("Value(3, %s) = %v, %v; want %v, %v", sample.Short(s), r, e, want, wrong)
 	}
 }
 
@@ -249,7 +242,7 @@ func TestValue(t *testing.T) {
 			want = rat(c.want)
 		}
 		if r, e := Value(c.kind, c.s); r != want || e != c.wrong {
-			t.Errorf("Value(%d, %s) = %v, %v; want %s, %v", c.kind, short(c.s), r, e, c.want, c.wrong)
+			t.Errorf("Value(%d, %s) = %v, %v; want %s, %v", c.kind, sample.Short(c.s), r, e, c.want, c.wrong)
 		}
 	}
 }
@@ -267,7 +260,7 @@ func TestValueOfOtherKinds(t *testing.T) {
 		}
 		for _, s := range texts {
 			if r, e := Value(kind, s); r != (api.Rat{}) || e != api.ErrKind {
-				t.Errorf("Value(%d, %s) = %v, %v; want ErrKind", kind, short(s), r, e)
+				t.Errorf("Value(%d, %s) = %v, %v; want ErrKind", kind, sample.Short(s), r, e)
 			}
 		}
 	}
@@ -277,7 +270,7 @@ func TestValueOfOtherKinds(t *testing.T) {
 func TestWrongTexts(t *testing.T) {
 	for _, s := range wrongTexts() {
 		if _, e := Int(s); e == nil {
-			t.Errorf("Int(%s) has no error", short(s))
+			t.Errorf("Int(%s) has no error", sample.Short(s))
 		}
 		expectFloat(t, s, api.Rat{}, api.ErrForm)
 		expectIntByWords(t, s)

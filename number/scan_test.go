@@ -8,6 +8,7 @@ import (
 	"testing"
 
 	"cavil/api"
+	"cavil/sample"
 )
 
 var (
@@ -49,10 +50,10 @@ func expectScan(t *testing.T, b []byte, at, kind, size int, wrong error) {
 	t.Helper()
 	before := bytes.Clone(b)
 	if k, n, e := Scan(b, at); k != kind || n != size || e != wrong {
-		t.Errorf("Scan(%s, %d) = %d, %d, %v; want %d, %d, %v", short(string(b)), at, k, n, e, kind, size, wrong)
+		t.Errorf("Scan(%s, %d) = %d, %d, %v; want %d, %d, %v", sample.Short(string(b)), at, k, n, e, kind, size, wrong)
 	}
 	if !bytes.Equal(b, before) {
-		t.Errorf("Scan(%s, %d) changes the bytes", short(string(before)), at)
+		t.Errorf("Scan(%s, %d) changes the bytes", sample.Short(string(before)), at)
 	}
 }
 
@@ -73,7 +74,7 @@ func expectWhole(t *testing.T, b []byte, at int) {
 	}
 	c := b[at+size]
 	if c == '_' || '0' <= c && c <= '9' || 'a' <= c && c <= 'z' || 'A' <= c && c <= 'Z' {
-		t.Errorf("Scan(%s, %d) ends ahead of %q", short(string(b)), at, c)
+		t.Errorf("Scan(%s, %d) ends ahead of %q", sample.Short(string(b)), at, c)
 	}
 }
 

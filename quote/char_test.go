@@ -5,6 +5,7 @@ import (
 	"testing"
 
 	"cavil/api"
+	"cavil/sample"
 )
 
 // P10.2: runes of each length, each of them as it is.
@@ -79,7 +80,7 @@ func TestCharNoEscape(t *testing.T) {
 // P10.2: every byte behind a backslash, alone, and with digits behind it.
 func TestCharEveryByteAfterBackslash(t *testing.T) {
 	named := map[string]rune{"a": 7, "b": 8, "t": 9, "n": 10, "v": 11, "f": 12, "r": 13, "\\": '\\', "'": '\''}
-	for _, c := range everyByte() {
+	for _, c := range sample.EveryByte() {
 		want, ok := named[c]
 		if ok {
 			expectChar(t, `'\`+c+"'", want, nil)
@@ -109,7 +110,7 @@ func TestCharOfNumbers(t *testing.T) {
 	}
 	for _, s := range []string{`\101`, `\x41`, `\u0041`, `\U00000041`} {
 		for i := 1; i < len(s); i++ {
-			for _, c := range everyByte() {
+			for _, c := range sample.EveryByte() {
 				expectByWords(t, "'"+s[:i]+c+s[i+1:]+"'")
 			}
 		}
@@ -135,7 +136,7 @@ func TestCharCountsDigits(t *testing.T) {
 
 // P10.2: what is not UTF-8, alone and with more behind it.
 func TestCharNotUtf(t *testing.T) {
-	for _, s := range broken() {
+	for _, s := range sample.Broken() {
 		for _, more := range []string{"", "a", "'", "\n", "é", `\n`, "\xff"} {
 			expectChar(t, "'"+s+more+"'", 0, api.ErrUtf)
 		}

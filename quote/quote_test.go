@@ -10,45 +10,12 @@ import (
 	"unicode/utf8"
 
 	"cavil/api"
+	"cavil/sample"
 )
-
-// short is a text as a test tells it.
-func short(s string) string {
-	if len(s) > 60 {
-		return strconv.Quote(s[:30]) + ".." + strconv.Quote(s[len(s)-20:])
-	}
-	return strconv.Quote(s)
-}
-
-// each calls f with all texts of at most n pieces.
-func each(pieces []string, n int, f func(s string)) {
-	var grow func(s string, left int)
-	grow = func(s string, left int) {
-		f(s)
-		for i := 0; i < len(pieces) && left > 0; i++ {
-			grow(s+pieces[i], left-1)
-		}
-	}
-	grow("", n)
-}
-
-// everyByte is all bytes, each as a text.
-func everyByte() []string {
-	l := make([]string, 256)
-	for i := range l {
-		l[i] = string([]byte{byte(i)})
-	}
-	return l
-}
 
 // sampleRunes are runes of one, two, three and four bytes, and the first and last of each length.
 func sampleRunes() []rune {
 	return []rune{0, 1, '\t', '\r', ' ', '!', '#', '$', '"', '`', '0', '9', 'A', '[', ']', 'a', 'n', 'u', 'x', '~', 0x7f, 0x80, 0xe9, 0x3b1, 0x7ff, 0x800, 0x20ac, 0x2028, 0xd7ff, 0xe000, 0xfeff, 0xfffd, 0xffff, 0x10000, 0x1f600, 0x10ffff}
-}
-
-// broken are bytes that are not UTF-8: cut off, interrupted, too long, surrogates, too great, and bytes that begin nothing.
-func broken() []string {
-	return []string{"\x80", "\xbf", "\xc3", "\xc3\xc3", "\xe2", "\xe2\x82", "\xf0\x9f\x98", "\xe2a\xac", "\xc0\x80", "\xc1\xbf", "\xe0\x80\x80", "\xed\xa0\x80", "\xed\xbf\xbf", "\xf4\x90\x80\x80", "\xf8\x88\x80\x80\x80", "\xfe", "\xff", "\xff\xff"}
 }
 
 var (
@@ -179,7 +146,7 @@ func scanByWords(b []byte, at int) (kind, size int, e error) {
 func expectChar(t *testing.T, s string, want rune, wrong error) {
 	t.Helper()
 	if r, e := Char(s); r != want || e != wrong {
-		t.Errorf("Char(%s) = %#x, %v; want %#x, %v", short(s), r, e, want, wrong)
+		t.Errorf("Char(%s) = %#x, %v; want %#x, %v", sample.Short(s), r, e, want, wrong)
 	}
 }
 
@@ -187,7 +154,7 @@ func expectChar(t *testing.T, s string, want rune, wrong error) {
 func expectText(t *testing.T, s, want string, wrong error) {
 	t.Helper()
 	if x, e := Text(s); x != want || e != wrong {
-		t.Errorf("Text(%s) = %s, %v; want %s, %v", short(s), short(x), e, short(want), wrong)
+		t.Errorf("Text(%s) = %s, %v; want %s, %v", sample.Short(s), sample.Short(x), e, sample.Short(want), wrong)
 	}
 }
 
@@ -196,10 +163,10 @@ func expectScan(t *testing.T, b []byte, at, kind, size int, wrong error) {
 	t.Helper()
 	before := bytes.Clone(b)
 	if k, n, e := Scan(b, at); k != kind || n != size || e != wrong {
-		t.Errorf("Scan(%s, %d) = %d, %d, %v; want %d, %d, %v", short(string(b)), at, k, n, e, kind, size, wrong)
+		t.Errorf("Scan(%s, %d) = %d, %d, %v; want %d, %d, %v", sample.Short(string(b)), at, k, n, e, kind, size, wrong)
 	}
 	if !bytes.Equal(b, before) {
-		t.Errorf("Scan(%s, %d) changes the bytes", short(string(before)), at)
+		t.Errorf("Scan(%s, %d) changes the bytes", sample.Short(string(before)), at)
 	}
 }
 

@@ -5,6 +5,7 @@ import (
 	"testing"
 
 	"cavil/api"
+	"cavil/sample"
 )
 
 // scanned is a literal that stands at the beginning of a text, with what Scan says of it.
@@ -63,7 +64,7 @@ func TestScanKeepsToTheLength(t *testing.T) {
 			kind, size, wrong := scanByWords([]byte(c.s[:n]), 0)
 			expectScan(t, []byte(c.s)[:n], 0, kind, size, wrong)
 			if kind != c.kind {
-				t.Errorf("the literal %s has the kind %d", short(c.s), kind)
+				t.Errorf("the literal %s has the kind %d", sample.Short(c.s), kind)
 			}
 		}
 		expectScan(t, []byte(c.s)[:c.size], 0, c.kind, c.size, nil)
@@ -79,7 +80,7 @@ func TestScanNone(t *testing.T) {
 	}
 	expectScan(t, nil, 0, 0, 0, api.ErrNone)
 	expectScan(t, []byte("''")[:1], 1, 0, 0, api.ErrNone)
-	for _, c := range everyByte() {
+	for _, c := range sample.EveryByte() {
 		for _, more := range []string{"", "'a'", `"a"`, "`a`", c} {
 			if strings.ContainsAny(c, "'\"`") {
 				expectScanByWords(t, []byte(c+more), 0)
@@ -110,7 +111,7 @@ func TestScanAtEveryOffset(t *testing.T) {
 // P10.1, P10.5: every byte within literals of each quote, alone, behind a backslash, and behind the literal.
 func TestScanEveryByte(t *testing.T) {
 	for _, quote := range []string{"'", `"`, "`"} {
-		for _, c := range everyByte() {
+		for _, c := range sample.EveryByte() {
 			for _, s := range []string{c, c + "a", "a" + c, c + c, `\` + c, `\\` + c, `\` + c + `\`, c + `\` + quote, `\` + c + "000"} {
 				for _, tail := range []string{"", quote, quote + c, quote + quote, c + quote, "\n" + quote} {
 					expectScanByWords(t, []byte(quote+s+tail), 0)
@@ -123,11 +124,11 @@ func TestScanEveryByte(t *testing.T) {
 // P10.1, P10.5: all short texts of the bytes that matter, at each offset.
 func TestScanEveryShortText(t *testing.T) {
 	atEach := func(s string) { expectAllOffsets(t, s) }
-	each([]string{"'", `"`, "`", `\`, "\n"}, 5, atEach)
-	each([]string{"'", `"`, `\`, "\n", "n", "0", "x"}, 4, atEach)
-	each([]string{"'", "`", `\`, "\r", "\xc3", "\xa9"}, 4, atEach)
-	each([]string{`"`, `\`, "\n"}, 7, atEach)
-	each(everyByte(), 1, atEach)
+	sample.Each([]string{"'", `"`, "`", `\`, "\n"}, 5, atEach)
+	sample.Each([]string{"'", `"`, `\`, "\n", "n", "0", "x"}, 4, atEach)
+	sample.Each([]string{"'", "`", `\`, "\r", "\xc3", "\xa9"}, 4, atEach)
+	sample.Each([]string{`"`, `\`, "\n"}, 7, atEach)
+	sample.Each(sample.EveryByte(), 1, atEach)
 }
 
 // P10.1: long literals, closed ones and others, with each of the errors.
@@ -161,7 +162,7 @@ func TestScanOfLiteralAlone(t *testing.T) {
 			b := []byte(ahead + c.s)
 			kind, size, e := Scan(b, len(ahead))
 			if e != nil {
-				t.Errorf("Scan(%s) = %v", short(c.s), e)
+				t.Errorf("Scan(%s) = %v", sample.Short(c.s), e)
 			}
 			alone := append([]byte{}, b[len(ahead):len(ahead)+size]...)
 			expectScan(t, alone, 0, kind, len(alone), nil)

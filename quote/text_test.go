@@ -7,6 +7,7 @@ import (
 	"unicode/utf8"
 
 	"cavil/api"
+	"cavil/sample"
 )
 
 // P10.3: " literals without and with escapes, empty ones, and runes of each length.
@@ -50,7 +51,7 @@ func TestTextRaw(t *testing.T) {
 // P10.3: every byte in literals of each quote, alone, between others, and behind a backslash.
 func TestTextEveryByte(t *testing.T) {
 	named := map[string]string{"a": "\x07", "b": "\x08", "t": "\x09", "n": "\x0a", "v": "\x0b", "f": "\x0c", "r": "\x0d", `\`: `\`, `"`: `"`}
-	for _, c := range everyByte() {
+	for _, c := range sample.EveryByte() {
 		switch c {
 		case `"`, "\n":
 			expectText(t, `"`+c+`"`, "", api.ErrForm)
@@ -76,7 +77,7 @@ func TestTextEveryByte(t *testing.T) {
 func TestTextOfNumbers(t *testing.T) {
 	for _, s := range []string{`\101`, `\x41`, `\u0041`, `\U00000041`} {
 		for i := 1; i < len(s); i++ {
-			for _, c := range everyByte() {
+			for _, c := range sample.EveryByte() {
 				expectByWords(t, `"`+s[:i]+c+s[i+1:]+`"`)
 				expectByWords(t, `"z`+s[:i]+c+s[i+1:]+`1"`)
 			}
@@ -102,7 +103,7 @@ func TestTextNoEscape(t *testing.T) {
 
 // P10.3: bytes that are not UTF-8 stay in both kinds of literals.
 func TestTextNotUtf(t *testing.T) {
-	for _, s := range broken() {
+	for _, s := range sample.Broken() {
 		expectText(t, `"`+s+`"`, s, nil)
 		expectText(t, "`"+s+"`", s, nil)
 		expectText(t, `"a`+s+`\x41é"`, "a"+s+"Aé", nil)
@@ -159,11 +160,11 @@ func TestEveryShortText(t *testing.T) {
 		expectByWords(t, "`"+s+"`")
 		expectByWords(t, s)
 	}
-	each([]string{`\`, "'", `"`, "`", "\n", "n", "\r"}, 5, both)
-	each([]string{`\`, "x", "u", "0", "4", "a", "8", "F", "'", `"`}, 4, both)
-	each([]string{`\`, "\xe2", "\x82", "\xac", "\xc3", "\xa9", "'", `"`}, 4, both)
-	each([]string{`\`, "U", "0000", "d8", "00", "11", "'", "'\n\""}, 5, both)
-	each(everyByte(), 2, both)
+	sample.Each([]string{`\`, "'", `"`, "`", "\n", "n", "\r"}, 5, both)
+	sample.Each([]string{`\`, "x", "u", "0", "4", "a", "8", "F", "'", `"`}, 4, both)
+	sample.Each([]string{`\`, "\xe2", "\x82", "\xac", "\xc3", "\xa9", "'", `"`}, 4, both)
+	sample.Each([]string{`\`, "U", "0000", "d8", "00", "11", "'", "'\n\""}, 5, both)
+	sample.Each(sample.EveryByte(), 2, both)
 }
 
 // P10.2, P10.3: where all is UTF-8, the library takes the same literals for the same texts.
@@ -177,13 +178,13 @@ func TestAgainstLibrary(t *testing.T) {
 			want, _, rest, wrong := strconv.UnquoteChar(s[1:], '\'')
 			good := wrong == nil && rest == "'" && s[1] != '\n'
 			if r, e := Char(s); good != (e == nil) || good && r != want {
-				t.Errorf("Char(%s) = %#x, %v; the library: %#x, %v", short(s), r, e, want, wrong)
+				t.Errorf("Char(%s) = %#x, %v; the library: %#x, %v", sample.Short(s), r, e, want, wrong)
 			}
 			return
 		}
 		want, wrong := strconv.Unquote(s)
 		if x, e := Text(s); (e == nil) != (wrong == nil) || x != want {
-			t.Errorf("Text(%s) = %q, %v; the library: %q, %v", short(s), x, e, want, wrong)
+			t.Errorf("Text(%s) = %q, %v; the library: %q, %v", sample.Short(s), x, e, want, wrong)
 		}
 	}
 	all := func(s string) {
@@ -193,9 +194,9 @@ func TestAgainstLibrary(t *testing.T) {
 		hold(`"` + s + "'")
 		hold(s)
 	}
-	each([]string{`\`, "'", `"`, "`", "\n", "n", "\r", "é"}, 5, all)
-	each([]string{`\`, "x", "u", "U", "00", "4", "e9", "d8", "0000", "8"}, 5, all)
-	for _, c := range everyByte() {
+	sample.Each([]string{`\`, "'", `"`, "`", "\n", "n", "\r", "é"}, 5, all)
+	sample.Each([]string{`\`, "x", "u", "U", "00", "4", "e9", "d8", "0000", "8"}, 5, all)
+	for _, c := range sample.EveryByte() {
 		for _, more := range []string{"", "0", "00", "0041", "00000041", "0010ffff", "00110000", "ffffffff", "377", "400"} {
 			all(`\` + c + more)
 			all(`a\` + c + more + "z")

@@ -4,6 +4,8 @@ import (
 	"strconv"
 	"strings"
 	"testing"
+
+	"cavil/sample"
 )
 
 // writeByWords is what P10.4 says, word by word.
@@ -28,7 +30,7 @@ func writeByWords(s string) string {
 func expectWrite(t *testing.T, s, want string) {
 	t.Helper()
 	if x := Write(s); x != want {
-		t.Errorf("Write(%s) = %s; want %s", short(s), x, want)
+		t.Errorf("Write(%s) = %s; want %s", sample.Short(s), x, want)
 	}
 	expectInverse(t, s)
 }
@@ -57,7 +59,7 @@ func TestWrite(t *testing.T) {
 func TestWriteEveryByte(t *testing.T) {
 	const printed = " !#$%&'()*+,-./0123456789:;<=>?@ABCDEFGHIJKLMNOPQRSTUVWXYZ[]^_`abcdefghijklmnopqrstuvwxyz{|}~"
 	const digits = "0123456789abcdef"
-	for i, c := range everyByte() {
+	for i, c := range sample.EveryByte() {
 		want := `\x` + digits[i/16:i/16+1] + digits[i%16:i%16+1]
 		switch {
 		case c == `"`, c == `\`:
@@ -68,9 +70,9 @@ func TestWriteEveryByte(t *testing.T) {
 		expectWrite(t, c, `"`+want+`"`)
 		expectWrite(t, "a"+c+c+"1", `"a`+want+want+`1"`)
 	}
-	each(everyByte(), 2, func(s string) {
+	sample.Each(sample.EveryByte(), 2, func(s string) {
 		if x := Write(s); x != writeByWords(s) {
-			t.Errorf("Write(%s) = %s; want %s", short(s), x, writeByWords(s))
+			t.Errorf("Write(%s) = %s; want %s", sample.Short(s), x, writeByWords(s))
 		}
 		expectInverse(t, s)
 	})
@@ -78,17 +80,17 @@ func TestWriteEveryByte(t *testing.T) {
 
 // P10.5: Text inverts Write of all short texts of the bytes that matter, of runes, and of bytes that are not UTF-8.
 func TestTextInvertsWrite(t *testing.T) {
-	each([]string{`\`, `"`, "'", "`", "\n", "\r", "x", "0", "\xff", "é"}, 4, func(s string) {
+	sample.Each([]string{`\`, `"`, "'", "`", "\n", "\r", "x", "0", "\xff", "é"}, 4, func(s string) {
 		expectWrite(t, s, writeByWords(s))
 	})
 	for _, r := range sampleRunes() {
 		expectWrite(t, string(r), writeByWords(string(r)))
 	}
-	for _, s := range broken() {
+	for _, s := range sample.Broken() {
 		expectWrite(t, s, writeByWords(s))
 		expectWrite(t, `"`+s+`\`, writeByWords(`"`+s+`\`))
 	}
-	all := strings.Join(everyByte(), "")
+	all := strings.Join(sample.EveryByte(), "")
 	expectWrite(t, all, writeByWords(all))
 	expectWrite(t, all+all, writeByWords(all+all))
 	expectInverse(t, strings.Repeat(all, 1<<12))
@@ -102,9 +104,9 @@ func TestTextInvertsWrite(t *testing.T) {
 
 // P10.4: the library takes the literals for the same texts.
 func TestWriteAgainstLibrary(t *testing.T) {
-	each(everyByte(), 2, func(s string) {
+	sample.Each(sample.EveryByte(), 2, func(s string) {
 		if x, e := strconv.Unquote(Write(s)); x != s || e != nil {
-			t.Errorf("the library takes %s for %s, %v; want %s", Write(s), short(x), e, short(s))
+			t.Errorf("the library takes %s for %s, %v; want %s", Write(s), sample.Short(x), e, sample.Short(s))
 		}
 	})
 }
